@@ -7,6 +7,7 @@ import (
 	"docket/dotpath"
 	"docket/jsonval"
 	"docket/order"
+	"docket/whole"
 )
 
 // change makes another document of d, by what is done at a place.
@@ -41,11 +42,11 @@ func setIf(suits func(c int) bool) func(x api.Value) change {
 }
 
 func add(x api.Value) change {
-	return reckon(x.Int, func(n int64) (int64, bool) { return sum(n, x.Int) })
+	return reckon(x.Int, func(n int64) (int64, bool) { return whole.Sum(n, x.Int) })
 }
 
 func multiply(x api.Value) change {
-	return reckon(0, func(n int64) (int64, bool) { return product(n, x.Int) })
+	return reckon(0, func(n int64) (int64, bool) { return whole.Product(n, x.Int) })
 }
 
 // reckon lays first where there is nothing, and else what next makes of the number there.
@@ -64,21 +65,6 @@ func reckon(first int64, next func(n int64) (int64, bool)) change {
 		}
 		return laid(d, place, jsonval.Of(n))
 	}
-}
-
-// sum tells whether it fits: it rises just if b is above 0, unless it has wrapped round.
-func sum(a, b int64) (int64, bool) {
-	c := a + b
-	return c, (c > a) == (b > 0)
-}
-
-// product tells whether it fits: the sign is asked too, as dividing the least number by -1 wraps round itself.
-func product(a, b int64) (int64, bool) {
-	c := a * b
-	if a == 0 || b == 0 {
-		return c, true
-	}
-	return c, (c < 0) == ((a < 0) != (b < 0)) && c/b == a
 }
 
 // relist is done where a list stands, and nothing where nothing does; next makes a list of its own.
