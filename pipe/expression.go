@@ -33,9 +33,8 @@ type (
 
 func (c constant) of(api.Value) api.Value { return c.value }
 
-// Of nothing Get answers the zero Value, which is null.
 func (p place) of(d api.Value) api.Value {
-	v, _ := dotpath.Get(d, p.path)
+	v, _ := dotpath.Get(d, p.path) // where nothing stands it is the zero Value, which is null
 	return v
 }
 

@@ -108,7 +108,7 @@ func madeBy(name string) func(values []api.Value) api.Value {
 	case "$size":
 		return size
 	}
-	return typeOf
+	return typeOf // $type is the one that is left: needsOf knows no others
 }
 
 // until goes on as far as the first operand whose truth is the one that settles it.
