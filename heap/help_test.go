@@ -13,16 +13,15 @@ import (
 
 // The kinds as chapter 10 numbers them, so that a test does not follow a number that another one stands for.
 const (
-	kindLock   = 1
-	kindUnlock = 2
-	kindGet    = 8
-	kindSet    = 9
+	kindGet = 8
+	kindSet = 9
 )
 
 // How a client ends, as chapter 9 numbers it.
 const (
-	wasStopped = 0
-	hasEnded   = 1
+	wasStopped  = 0
+	hasEnded    = 1
+	hasPanicked = 2
 )
 
 // The limit and the errors as the document numbers them.
@@ -109,11 +108,12 @@ func wantCounts[T any](t *testing.T, h *heap.Heap[T], made, pooled, live int, ge
 	}
 }
 
+// mustRun is a run in which no client panics.
 func mustRun(t *testing.T, bodies []client, script ...int) api.Run {
 	t.Helper()
 	r, e := sched.Run(bodies, script)
-	if e != api.OK {
-		t.Fatalf("%d clients, %d entries: %d", len(bodies), len(script), e)
+	if e != api.OK || slices.Contains(r.Ends, hasPanicked) {
+		t.Fatalf("%d clients, %d entries: %d, ends %v", len(bodies), len(script), e, r.Ends)
 	}
 	return r
 }

@@ -7,12 +7,13 @@ import (
 	"testing"
 
 	"docket/api"
+	"docket/chain"
 	"docket/heap"
 	"docket/prim"
 	"docket/sched"
 )
 
-// The chapter's words, written plainly: a call is a chain of steps, each with what it does; and a run by chapter 9's words plays the chains of several clients.
+// The chapter's words, written plainly: a call is a chain of steps, each with what it does.
 
 // What an act is a call of.
 const (
@@ -28,13 +29,6 @@ type act struct{ what, of int }
 // lockObj is that of the lock under which Alloc and Free are called.
 const lockObj = 4
 
-// chain is a step that a client waits with; do tells with which it waits then, or nil, if it has ended.
-type chain struct {
-	step  api.Step
-	ready func() bool
-	do    func() *chain
-}
-
 type plainNode struct {
 	gen   int
 	live  bool
@@ -46,7 +40,7 @@ type words struct {
 	most  int
 	nodes []plainNode // by their numbers, from 1 on
 	pool  []int
-	held  bool
+	lock  *chain.Lock // nil: there is none
 	told  []api.Ref
 	lines []string
 }
@@ -65,15 +59,13 @@ func line(client int, a act, rest ...any) string {
 }
 
 // always is a step that is always ready.
-func always(kind, num int, do func() *chain) *chain {
-	return &chain{step: at(kind, num), do: do}
-}
+func always(kind, num int, do func() *chain.Link) *chain.Link { return chain.Of(at(kind, num), do) }
 
-func (w *words) alloc(v string, then func(api.Ref, int) *chain) *chain {
-	return always(kindGet, 0, func() *chain {
+func (w *words) alloc(v string, then func(api.Ref, int) *chain.Link) *chain.Link {
+	return always(kindGet, 0, func() *chain.Link {
 		if n := len(w.pool); n > 0 {
 			num, rest := w.pool[n-1], slices.Clone(w.pool[:n-1])
-			return always(kindSet, 0, func() *chain {
+			return always(kindSet, 0, func() *chain.Link {
 				w.pool = rest
 				r := ref(num, w.nodes[num-1].gen)
 				return w.lay(r, v, then)
@@ -87,8 +79,8 @@ func (w *words) alloc(v string, then func(api.Ref, int) *chain) *chain {
 }
 
 // lay is the Set with which an Alloc ends.
-func (w *words) lay(r api.Ref, v string, then func(api.Ref, int) *chain) *chain {
-	return always(kindSet, r.Num, func() *chain {
+func (w *words) lay(r api.Ref, v string, then func(api.Ref, int) *chain.Link) *chain.Link {
+	return always(kindSet, r.Num, func() *chain.Link {
 		if r.Num > len(w.nodes) {
 			w.nodes = append(w.nodes, plainNode{})
 		}
@@ -97,11 +89,11 @@ func (w *words) lay(r api.Ref, v string, then func(api.Ref, int) *chain) *chain 
 	})
 }
 
-func (w *words) get(r api.Ref, then func(string, bool) *chain) *chain {
+func (w *words) get(r api.Ref, then func(string, bool) *chain.Link) *chain.Link {
 	if r.Num < 1 || r.Num > len(w.nodes) {
 		return then("", false)
 	}
-	return always(kindGet, r.Num, func() *chain {
+	return always(kindGet, r.Num, func() *chain.Link {
 		n := w.nodes[r.Num-1]
 		if !n.live || n.gen != r.Gen {
 			return then("", false)
@@ -110,16 +102,16 @@ func (w *words) get(r api.Ref, then func(string, bool) *chain) *chain {
 	})
 }
 
-func (w *words) free(r api.Ref, then func(bool) *chain) *chain {
-	return w.get(r, func(_ string, there bool) *chain {
+func (w *words) free(r api.Ref, then func(bool) *chain.Link) *chain.Link {
+	return w.get(r, func(_ string, there bool) *chain.Link {
 		if !there {
 			return then(false)
 		}
-		return always(kindSet, r.Num, func() *chain {
+		return always(kindSet, r.Num, func() *chain.Link {
 			w.nodes[r.Num-1] = plainNode{gen: r.Gen + 1}
-			return always(kindGet, 0, func() *chain {
+			return always(kindGet, 0, func() *chain.Link {
 				more := append(slices.Clone(w.pool), r.Num)
-				return always(kindSet, 0, func() *chain {
+				return always(kindSet, 0, func() *chain.Link {
 					w.pool = more
 					return then(true)
 				})
@@ -128,34 +120,18 @@ func (w *words) free(r api.Ref, then func(bool) *chain) *chain {
 	})
 }
 
-// locked lays the steps of a lock around a call, if there is to be one.
-func (w *words) locked(lock bool, call func(after func() *chain) *chain, then func() *chain) *chain {
-	if !lock {
-		return call(then)
-	}
-	return &chain{step: api.Step{Kind: kindLock, Obj: lockObj}, ready: func() bool { return !w.held }, do: func() *chain {
-		w.held = true
-		return call(func() *chain {
-			return &chain{step: api.Step{Kind: kindUnlock, Obj: lockObj}, do: func() *chain {
-				w.held = false
-				return then()
-			}}
-		})
-	}}
-}
-
 // act is a client's act number i, and those behind it.
-func (w *words) act(client int, acts []act, i int, lock bool) *chain {
+func (w *words) act(client int, acts []act, i int) *chain.Link {
 	if i == len(acts) {
 		return nil
 	}
 	a := acts[i]
 	write := func(rest ...any) { w.lines = append(w.lines, line(client, a, rest...)) }
-	then := func() *chain { return w.act(client, acts, i+1, lock) }
+	then := func() *chain.Link { return w.act(client, acts, i+1) }
 	switch a.what {
 	case toAlloc:
-		return w.locked(lock, func(after func() *chain) *chain {
-			return w.alloc(line(client, a, i), func(r api.Ref, e int) *chain {
+		return w.lock.Around(lockObj, func(after func() *chain.Link) *chain.Link {
+			return w.alloc(line(client, a, i), func(r api.Ref, e int) *chain.Link {
 				if e == isOK {
 					w.told = append(w.told, r)
 				}
@@ -164,50 +140,30 @@ func (w *words) act(client int, acts []act, i int, lock bool) *chain {
 			})
 		}, then)
 	case toFree:
-		return w.locked(lock, func(after func() *chain) *chain {
-			return w.free(refOf(w.told, a.of), func(ok bool) *chain {
+		return w.lock.Around(lockObj, func(after func() *chain.Link) *chain.Link {
+			return w.free(refOf(w.told, a.of), func(ok bool) *chain.Link {
 				write(ok)
 				return after()
 			})
 		}, then)
 	}
-	return w.get(refOf(w.told, a.of), func(v string, ok bool) *chain {
+	return w.get(refOf(w.told, a.of), func(v string, ok bool) *chain.Link {
 		write(v, ok)
 		return then()
 	})
 }
 
-// play runs programs by the words of chapter 9.
+// play runs programs by the words.
 func (w *words) play(programs [][]act, script []int, lock bool) api.Run {
-	var r api.Run
-	w.held, w.lines = false, nil
-	clients := make([]*chain, len(programs))
+	w.lock, w.lines = nil, nil
+	if lock {
+		w.lock = &chain.Lock{}
+	}
+	clients := make([]*chain.Link, len(programs))
 	for i, acts := range programs {
-		clients[i] = w.act(i, acts, 0, lock)
+		clients[i] = w.act(i, acts, 0)
 	}
-	for {
-		var open []int
-		for i, c := range clients {
-			if c != nil && (c.ready == nil || c.ready()) {
-				open = append(open, i)
-			}
-		}
-		if len(open) == 0 || r.Used == len(script) {
-			break
-		}
-		i := open[(script[r.Used]%len(open)+len(open))%len(open)]
-		r.Events = append(r.Events, api.Event{Client: i, Step: clients[i].step})
-		r.Used++
-		clients[i] = clients[i].do()
-	}
-	for _, c := range clients {
-		if c == nil {
-			r.Ends, r.Waits = append(r.Ends, hasEnded), append(r.Waits, api.Step{})
-			continue
-		}
-		r.Ends, r.Waits = append(r.Ends, wasStopped), append(r.Waits, c.step)
-	}
-	return r
+	return chain.Play(clients, script)
 }
 
 // built is the heap itself, under the same programs.
@@ -298,7 +254,7 @@ func wantRuns(t *testing.T, d dice, heaps int, lock bool) map[string]int {
 			programs, script := d.programs(4, 10), d.script(d.Intn(120))
 			want := w.play(programs, script, lock)
 			got := b.play(t, programs, script, lock)
-			if !slices.Equal(got.Events, want.Events) || !slices.Equal(got.Ends, want.Ends) || !slices.Equal(got.Waits, want.Waits) || got.Used != want.Used {
+			if !slices.Equal(got.Events, want.Events) || !slices.Equal(got.Ends, want.Ends) || !slices.Equal(got.Waits, want.Waits) || got.Used != want.Used || got.Stuck != want.Stuck {
 				t.Fatalf("%v under %v:\n%v\nwant\n%v", programs, script, got, want)
 			}
 			if !slices.Equal(b.lines, w.lines) {
@@ -366,9 +322,7 @@ func TestWordsByNobody(t *testing.T) {
 				acts = append(acts, a)
 				b.act(nil, nil, a, i)
 			}
-			for c := w.act(-1, acts, 0, false); c != nil; {
-				c = c.do()
-			}
+			chain.Done(w.act(-1, acts, 0))
 			if !slices.Equal(b.lines, w.lines) {
 				t.Fatalf("%v: told\n%q\nwant\n%q", acts, b.lines, w.lines)
 			}
