@@ -1,7 +1,12 @@
 // Package chain plays calls that are written down as chains of steps: by the words of chapter 9, and without goroutines. The tests of layers that take steps write the chapters' words down so, and hold their calls against them.
 package chain
 
-import "docket/api"
+import (
+	"iter"
+	"slices"
+
+	"docket/api"
+)
 
 // Link is a step that a client waits with. Do does what the step does, and tells with which one the client waits then: nil, if it has ended.
 type Link struct {
@@ -16,8 +21,7 @@ func Of(s api.Step, do func() *Link) *Link { return &Link{Step: s, Do: do} }
 // Play is the run of clients that wait with these steps at first, under a script.
 func Play(clients []*Link, script []int) api.Run {
 	var r api.Run
-	now := make([]*Link, len(clients))
-	copy(now, clients)
+	now := slices.Clone(clients)
 	for {
 		open := ready(now)
 		if len(open) == 0 {
@@ -40,6 +44,45 @@ func Play(clients []*Link, script []int) api.Run {
 		}
 	}
 	return r
+}
+
+// Every goes over all schedules of clients that end, or wait for ever: each as a script that leads to it and whose entries are all used. start makes the clients, each time in the same state.
+func Every(start func() []*Link) iter.Seq[[]int] {
+	return func(yield func([]int) bool) {
+		script, ways := follow(start(), nil)
+		for yield(slices.Clone(script)) {
+			another := next(script, ways)
+			if another == nil {
+				return
+			}
+			script, ways = follow(start(), another)
+		}
+	}
+}
+
+// follow plays a script, and entries of 0 behind it, until no client is ready: all entries, and of each among how many clients it picked.
+func follow(clients []*Link, script []int) (all, ways []int) {
+	now := slices.Clone(clients)
+	for open := ready(now); len(open) > 0; open = ready(now) {
+		entry := 0
+		if len(all) < len(script) {
+			entry = script[len(all)]
+		}
+		all, ways = append(all, entry), append(ways, len(open))
+		i := open[entry]
+		now[i] = now[i].Do()
+	}
+	return all, ways
+}
+
+// next is how the script begins that comes behind this one, as words do in a dictionary; nil, if this is the last.
+func next(script, ways []int) []int {
+	for i, entry := range slices.Backward(script) {
+		if entry+1 < ways[i] {
+			return append(slices.Clone(script[:i]), entry+1)
+		}
+	}
+	return nil
 }
 
 // Done does the steps one behind the other, ready or not, as a call does that nobody makes.

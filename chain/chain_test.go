@@ -122,3 +122,81 @@ func TestDone(t *testing.T) {
 	}
 	chain.Done(nil)
 }
+
+// every tells how many schedules there are of programs, each of which must lead to an end of its own.
+func every(t *testing.T, locked bool, programs ...program) int {
+	t.Helper()
+	start := func() []*chain.Link {
+		var lock *chain.Lock
+		if locked {
+			lock = &chain.Lock{}
+		}
+		var links []*chain.Link
+		for i, p := range programs {
+			links = append(links, p.link(i, lock, func(string) {}))
+		}
+		return links
+	}
+	seen := map[string]int{}
+	for script := range chain.Every(start) {
+		r := chain.Play(start(), script)
+		longer := chain.Play(start(), append(slices.Clone(script), 0))
+		if r.Used != len(script) || !same(r, longer) {
+			t.Errorf("%v under %v: %v, and with an entry more %v", programs, script, r, longer)
+		}
+		seen[fmt.Sprint(r.Events)]++
+		clear(script[:cap(script)]) // it is the test's own
+	}
+	for events, n := range seen {
+		if n != 1 {
+			t.Errorf("%v: %s %d times", programs, events, n)
+		}
+	}
+	return len(seen)
+}
+
+// Each schedule is told, and each once.
+func TestEvery(t *testing.T) {
+	for _, x := range []struct {
+		locked   bool
+		programs []program
+		want     int
+	}{
+		{false, nil, 1},
+		{false, []program{{0, 0, false}}, 1},
+		{false, []program{{3, 0, false}}, 1},
+		{false, []program{{1, 0, false}, {1, 0, false}}, 2},
+		{false, []program{{2, 0, false}, {3, 0, false}}, 10},
+		{false, []program{{4, 0, false}, {4, 0, false}}, 70},
+		{false, []program{{2, 0, false}, {1, 1, false}, {2, 0, false}}, 90},
+		{true, []program{{0, 1, false}, {0, 5, false}}, 2},          // each of them whole
+		{true, []program{{1, 0, false}, {0, 0, false}}, 4},          // one step, and two under the lock; these, whole, by the place of that step: 3, 1
+		{true, []program{{0, 0, true}, {0, 1, false}}, 2},           // the first waits for ever, and so does the other one, unless it came first
+		{true, []program{{0, 0, true}, {0, 0, true}}, 2},            // whoever comes first waits for itself
+		{false, []program{{1, 0, false}, {}, {1, 0, false}, {}}, 2}, // some have ended at once
+		{true, []program{{0, 0, false}, {0, 0, false}, {}}, 6},      // by their order
+		{false, []program{{5, 1, false}, {4, 2, false}}, 924},       // 12 of which 6
+		{false, []program{{2, 0, false}, {2, 0, false}, {2, 0, false}, {2, 0, false}}, 2520},
+	} {
+		if got := every(t, x.locked, x.programs...); got != x.want {
+			t.Errorf("%v: %d schedules; want %d", x.programs, got, x.want)
+		}
+	}
+}
+
+// Whoever has seen enough ends it.
+func TestEveryIsLeft(t *testing.T) {
+	start := func() []*chain.Link {
+		p := program{ahead: 9}
+		return []*chain.Link{p.link(0, nil, func(string) {}), p.link(1, nil, func(string) {})}
+	}
+	n := 0
+	for range chain.Every(start) {
+		if n++; n == 5 {
+			break
+		}
+	}
+	if n != 5 {
+		t.Errorf("%d", n)
+	}
+}
